@@ -1,7 +1,9 @@
-package ckpt
+// Package pairs is what the layers ckpt and merge share: the files of a pair, and who makes them and the manifest that names them. See shared/doc/12-ckpt.md.
+package pairs
 
 import (
 	"bytes"
+	"strconv"
 
 	"varve/api"
 	"varve/disk"
@@ -11,6 +13,43 @@ import (
 )
 
 const firstKind = 'P' // with it begins the body of the first frame of a pair's files
+
+// Content is what the two files of a pair have.
+type Content struct {
+	Rows []api.Row  // the data file's
+	Gone []api.Gone // the delta file's
+}
+
+// Files are the bytes of the two files of a pair.
+type Files struct {
+	number      int
+	data, delta []byte
+}
+
+// Put is the files of a pair; false: it may not have this.
+func Put(p api.Pair, c Content) (Files, bool) {
+	data, dataFits := rowKind().put(c.Rows, p)
+	delta, deltaFits := goneKind().put(c.Gone, p)
+	if !dataFits || !deltaFits {
+		return Files{}, false
+	}
+	return Files{number: p.Number, data: data, delta: delta}, true
+}
+
+// Read is what the files of a pair on a disk have; false: they may not be.
+func Read(d *disk.Disk, p api.Pair) (Content, bool) {
+	rows, dataFits := rowKind().read(d, p)
+	gone, deltaFits := goneKind().read(d, p)
+	if !dataFits || !deltaFits {
+		return Content{}, false
+	}
+	return Content{Rows: rows, Gone: gone}, true
+}
+
+// DataName, DeltaName: a pair's files.
+func DataName(number int) string { return "data-" + strconv.Itoa(number) }
+
+func DeltaName(number int) string { return "delta-" + strconv.Itoa(number) }
 
 // kind is what one of a pair's two files has behind its first frame.
 type kind[T any] struct {
@@ -111,14 +150,4 @@ func framed(bodies ...[]byte) []byte {
 		out = append(out, b...)
 	}
 	return out
-}
-
-// readManifest is the manifest of which these bytes are the file's, if they are one's.
-func readManifest(b []byte) (api.Manifest, bool) {
-	seq, body, behind, ok := frame.Take(b, 0)
-	if !ok || seq != 0 || behind < len(b) {
-		return api.Manifest{}, false
-	}
-	m, _, e := record.Manifest(body)
-	return m, e == api.OK
 }
